@@ -1,0 +1,79 @@
+package skip
+
+import (
+	"math"
+
+	"trivet/api"
+	"trivet/shape"
+)
+
+// Bytes are how many keys there are, and what each of them has, rising.
+func (s *Skip) Bytes() []byte {
+	if !s.made() {
+		return nil
+	}
+	l := []int64{int64(s.many)}
+	for n := range s.level(0) {
+		c := n.cell
+		l = append(l, int64(c.Key.Table), c.Key.Row, c.Value, c.Slot)
+	}
+	return shape.Num(nil, l...)
+}
+
+// Parse is the store whose Bytes are b, with the heights that the seed draws for its keys in their order.
+func Parse(b []byte, seed uint64) (*Skip, api.Errno) {
+	s, r := New(seed), &reader{left: b}
+	many := r.number(0, api.MaxCells)
+	for range many {
+		c := r.cell()
+		r.must(s.many == 0 || below(s.last[0].cell.Key, c.Key))
+		if r.err != api.OK {
+			break
+		}
+		s.insert(s.last, c, s.draw())
+	}
+	switch {
+	case r.err != api.OK:
+		return nil, r.err
+	case len(r.left) > 0:
+		return nil, api.ErrMore
+	}
+	return s, api.OK
+}
+
+// reader goes through bytes from the left. Behind its first error it reads nothing more, so that what is read of several numbers needs to ask nowhere whether those ahead were good.
+type reader struct {
+	left []byte
+	err  api.Errno
+}
+
+// cell is a key and what it has; a Table is refused ahead of what stands behind it.
+func (r *reader) cell() api.Cell {
+	var c api.Cell
+	c.Key.Table = int32(r.number(math.MinInt32, math.MaxInt32))
+	c.Key.Row = r.number(math.MinInt64, math.MaxInt64)
+	c.Value = r.number(math.MinInt64, math.MaxInt64)
+	c.Slot = r.number(0, api.MaxTime)
+	return c
+}
+
+// number is the next one, refused if it is not from least to most; behind an error it is 0.
+func (r *reader) number(least, most int64) int64 {
+	if r.err != api.OK {
+		return 0
+	}
+	n, size, e := shape.TakeNum(r.left)
+	r.left, r.err = r.left[size:], e
+	r.must(n >= least && n <= most)
+	if r.err != api.OK {
+		return 0
+	}
+	return n
+}
+
+// must refuses what was read, unless what it is told holds; the first error stays.
+func (r *reader) must(holds bool) {
+	if !holds && r.err == api.OK {
+		r.err = api.ErrBytes
+	}
+}
