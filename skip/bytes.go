@@ -23,8 +23,7 @@ func (s *Skip) Bytes() []byte {
 // Parse is the store whose Bytes are b, with the heights that the seed draws for its keys in their order.
 func Parse(b []byte, seed uint64) (*Skip, api.Errno) {
 	s, r := New(seed), &reader{left: b}
-	many := r.number(0, api.MaxCells)
-	for range many {
+	for range r.count() {
 		c := r.cell()
 		r.must(s.many == 0 || below(s.last[0].cell.Key, c.Key))
 		if r.err != api.OK {
@@ -47,27 +46,31 @@ type reader struct {
 	err  api.Errno
 }
 
-// cell is a key and what it has; a Table is refused ahead of what stands behind it.
-func (r *reader) cell() api.Cell {
-	var c api.Cell
-	c.Key.Table = int32(r.number(math.MinInt32, math.MaxInt32))
-	c.Key.Row = r.number(math.MinInt64, math.MaxInt64)
-	c.Value = r.number(math.MinInt64, math.MaxInt64)
-	c.Slot = r.number(0, api.MaxTime)
-	return c
+// count is how many keys there are, refused as soon as it is read; behind an error it is 0.
+func (r *reader) count() int64 {
+	n := r.number()
+	r.must(n >= 0 && n <= api.MaxCells)
+	if r.err != api.OK {
+		return 0
+	}
+	return n
 }
 
-// number is the next one, refused if it is not from least to most; behind an error it is 0.
-func (r *reader) number(least, most int64) int64 {
+// cell is a key and what it has. All four numbers are read ahead of refusing any: one that cannot be read is told first.
+func (r *reader) cell() api.Cell {
+	table, row, value, slot := r.number(), r.number(), r.number(), r.number()
+	r.must(table >= math.MinInt32 && table <= math.MaxInt32)
+	r.must(slot >= 0 && slot <= api.MaxTime)
+	return api.Cell{Key: api.Key{Table: int32(table), Row: row}, Value: value, Slot: slot}
+}
+
+// number is the next one; behind an error it is 0.
+func (r *reader) number() int64 {
 	if r.err != api.OK {
 		return 0
 	}
 	n, size, e := shape.TakeNum(r.left)
 	r.left, r.err = r.left[size:], e
-	r.must(n >= least && n <= most)
-	if r.err != api.OK {
-		return 0
-	}
 	return n
 }
 

@@ -111,18 +111,34 @@ func TestParseMany(t *testing.T) {
 	refused(t, shape.Num(nil, api.MaxCells, 0, 1, 0, 0, 0, 2, 0, 0), api.ErrEnds)
 }
 
-// P12.3: a Table that no int32 holds is refused as soon as it is read, of the first key and of a later one; those at the edges are not.
+// P12.3: a Table that no int32 holds, of the first key and of a later one, is refused when its key's Slot was read, not ahead of that; those at the edges are not.
 func TestParseTable(t *testing.T) {
-	for _, table := range []int64{math.MinInt64, minTable - 1<<32, minTable - 1, maxTable + 1, 1 << 32, 1<<32 + 1, math.MaxInt64} {
-		for _, b := range [][]byte{shape.Num(nil, 1, table), shape.Num(nil, 2, 0, 0, 0, 0, table)} {
-			refused(t, b, api.ErrBytes)
-			refused(t, append(b, 1), api.ErrBytes) // ahead of a Row that has no form
-			refused(t, shape.Num(b, 1, 2, 3), api.ErrBytes)
-			refused(t, shape.Num(b, 1, 2, 3, 4), api.ErrBytes)
+	for _, table := range []int64{math.MinInt64, minTable - 1<<32, minTable - 1, maxTable + 1, 1 << 32, 1<<32 + 1, maxTime, math.MaxInt64} {
+		for _, b := range [][]byte{shape.Num(nil, 1, table), shape.Num(nil, 2, table), shape.Num(nil, 2, 0, 0, 0, 0, table), shape.Num(nil, 3, 0, 0, 0, 0, table)} {
+			refusedBehindSlot(t, b)
 		}
 	}
 	for _, table := range []int32{minTable, minTable + 1, -1, 0, 1, maxTable - 1, maxTable} {
 		read(t, shape.Num(nil, 1, int64(table), 1, 2, 3), cell(table, 1, 2, 3))
+	}
+}
+
+// refusedBehindSlot fails the test, unless the key whose Table b ends with is refused when its Slot was read: each number up to that one is told first if it cannot be read, and nothing behind it is read.
+func refusedBehindSlot(t *testing.T, b []byte) {
+	t.Helper()
+	for _, l := range [][]int64{{}, {1}, {1, 2}} {
+		cut := shape.Num(b, l...)
+		refused(t, cut, api.ErrEnds)
+		refused(t, slices.Concat(cut, []byte{2}), api.ErrEnds)
+		refused(t, slices.Concat(cut, []byte{1}), api.ErrForm)
+		refused(t, slices.Concat(cut, []byte{2, 0, 0, 0, 0}), api.ErrForm)
+	}
+	for _, slot := range []int64{0, maxTime, -1, maxTime + 1} {
+		whole := shape.Num(b, 1, 2, slot)
+		refused(t, whole, api.ErrBytes)
+		refused(t, slices.Concat(whole, []byte{0}), api.ErrBytes)  // ahead of bytes that are left
+		refused(t, slices.Concat(whole, []byte{18}), api.ErrBytes) // and of a number that has no form
+		refused(t, shape.Num(whole, 3, 4, 5, 6), api.ErrBytes)
 	}
 }
 
@@ -239,6 +255,7 @@ func FuzzParse(f *testing.F) {
 	f.Add(shape.Num(nil, 1, 1, 2, 3, 4), uint64(1))
 	f.Add(shape.Num(nil, 2, 1, 2, 3, 4, 1, 3, -5, maxTime), uint64(9))
 	f.Add(shape.Num(nil, 2, 1, 2, 3, 4, 1, 2, 3, 4), uint64(9))
+	f.Add(shape.Num(nil, 2, 1, 2, 3, 4, 1<<32), uint64(0))
 	f.Fuzz(func(t *testing.T, b []byte, seed uint64) {
 		if len(b) < 1<<12 {
 			parsesAsWords(t, b, seed)

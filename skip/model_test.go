@@ -159,13 +159,10 @@ func modelParse(b []byte) ([]api.Cell, api.Errno) {
 			if n[i], size, e = shape.TakeNum(b); e != api.OK {
 				return nil, e
 			}
-			if i == 0 && (n[0] < -1<<31 || n[0] >= 1<<31) {
-				return nil, api.ErrBytes
-			}
 			b = b[size:]
 		}
 		c := cell(int32(n[0]), n[1], n[2], n[3])
-		if n[3] < 0 || n[3] > 1<<40 || len(l) > 0 && !less(l[len(l)-1].Key, c.Key) {
+		if n[0] < -1<<31 || n[0] >= 1<<31 || n[3] < 0 || n[3] > 1<<40 || len(l) > 0 && !less(l[len(l)-1].Key, c.Key) {
 			return nil, api.ErrBytes
 		}
 		l = append(l, c)
